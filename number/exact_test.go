@@ -6,6 +6,8 @@ import (
 	"slices"
 	"sort"
 	"strings"
+
+	"trellis/sample"
 )
 
 // What stands in this file is a plain second reading of the chapter, by whole numbers of any size.
@@ -211,17 +213,6 @@ func (w width) printed(float uint64) string {
 	return text
 }
 
-// dice tells rows of bits that have nothing to do with each other, and the same ones each time.
-type dice uint64
-
-func (d *dice) next() uint64 {
-	*d += 0x9e3779b97f4a7c15
-	z := uint64(*d)
-	z = (z ^ z>>30) * 0xbf58476d1ce4e5b9
-	z = (z ^ z>>27) * 0x94d049bb133111eb
-	return z ^ z>>31
-}
-
 // edges tells the finite amounts of a width about which something changes: the least and the greatest, those about each power of 2.
 func (w width) edges() []uint64 {
 	out := []uint64{0, 1, 2, 3, 4, 5, 9, 10, 19, 20}
@@ -251,10 +242,10 @@ func fewer(edges []uint64) []uint64 {
 }
 
 // some tells so many finite amounts of a width, of all exponents.
-func (w width) some(n int, from *dice) []uint64 {
+func (w width) some(n int, from *sample.Dice) []uint64 {
 	out := make([]uint64, n)
 	for i := range out {
-		out[i] = from.next() % w.infinity()
+		out[i] = from.Next() % w.infinity()
 	}
 	return out
 }

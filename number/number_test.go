@@ -4,6 +4,8 @@ import (
 	"math"
 	"math/big"
 	"testing"
+
+	"trellis/sample"
 )
 
 // both tells a finite float of 64 bits and the same one with the sign.
@@ -24,7 +26,7 @@ func signOf(x float64, w width) uint64 {
 
 // TestFinite: P5.1.
 func TestFinite(t *testing.T) {
-	for _, amount := range append(w64.edges(), w64.some(1000, new(dice))...) {
+	for _, amount := range append(w64.edges(), w64.some(1000, new(sample.Dice))...) {
 		for _, x := range both(amount) {
 			if !Finite(x) {
 				t.Errorf("P5.1: Finite(%b) = false", x)
@@ -94,7 +96,7 @@ func TestHalf(t *testing.T) {
 			t.Errorf("P5.3: Half(%x) = %#x", math.Float64bits(x), h)
 		}
 	}
-	for _, amount := range append(w64.edges(), w64.some(2000, new(dice))...) {
+	for _, amount := range append(w64.edges(), w64.some(2000, new(sample.Dice))...) {
 		check(math.Float64frombits(amount), w16.nearest(w64.number(amount)))
 	}
 }
@@ -108,7 +110,7 @@ func TestSingle(t *testing.T) {
 			}
 		}
 	}
-	for _, amount := range append(w32.edges(), w32.some(2000, new(dice))...) {
+	for _, amount := range append(w32.edges(), w32.some(2000, new(sample.Dice))...) {
 		x := math.Float64frombits(w64.nearest(w32.number(amount)))
 		middle := math.Float64frombits(w64.nearest(fraction{w32.between(amount), new(big.Int).Lsh(big.NewInt(1), uint(w32.shift()+1))}))
 		check(x, amount)
@@ -124,7 +126,7 @@ func TestSingle(t *testing.T) {
 			t.Errorf("P5.3: Single(%x) = %v", math.Float64bits(x), y)
 		}
 	}
-	for _, amount := range append(w64.edges(), w64.some(2000, new(dice))...) {
+	for _, amount := range append(w64.edges(), w64.some(2000, new(sample.Dice))...) {
 		check(math.Float64frombits(amount), w32.nearest(w64.number(amount)))
 	}
 }
@@ -147,7 +149,7 @@ func TestExact(t *testing.T) {
 			check(math.Nextafter(x, -infinite), false, false)
 		}
 	}
-	for _, amount := range append(w32.edges(), w32.some(2000, new(dice))...) {
+	for _, amount := range append(w32.edges(), w32.some(2000, new(sample.Dice))...) {
 		x := math.Float64frombits(w64.nearest(w32.number(amount)))
 		near := w16.nearest(w64.number(amountOf(x)))
 		in16 := near < w16.infinity() && amountOf(x) == w64.nearest(w16.number(near))
@@ -206,9 +208,9 @@ func TestCompare(t *testing.T) {
 
 // TestCompareNumbers: P5.5 of any two finite floats, by their numbers.
 func TestCompareNumbers(t *testing.T) {
-	from := new(dice)
+	from := new(sample.Dice)
 	for range 20000 {
-		x, y := math.Float64frombits(from.next()), math.Float64frombits(from.next())
+		x, y := math.Float64frombits(from.Next()), math.Float64frombits(from.Next())
 		if !Finite(x) || !Finite(y) {
 			continue
 		}
@@ -233,10 +235,10 @@ func TestWhole(t *testing.T) {
 			t.Errorf("P5.6: Whole(%b) = %d, %v", x, n, ok)
 		}
 	}
-	from := new(dice)
+	from := new(sample.Dice)
 	for range 20000 {
 		// Exponents about those in which a float becomes a whole number and leaves an int64.
-		checkWhole(t, math.Ldexp(float64(int64(from.next())), int(from.next()%80)-70))
+		checkWhole(t, math.Ldexp(float64(int64(from.Next())), int(from.Next()%80)-70))
 	}
 }
 
@@ -275,10 +277,10 @@ func TestSinglesInOrder(t *testing.T) {
 			t.Errorf("P5.10: Single(%b) stands behind Single(%b)", x, y)
 		}
 	}
-	from := new(dice)
+	from := new(sample.Dice)
 	for _, amount := range append(w32.edges(), w32.some(5000, from)...) {
 		x := math.Float64frombits(w64.nearest(w32.number(amount)))
-		near := math.Float64frombits(math.Float64bits(x) + from.next()%(1<<31))
+		near := math.Float64frombits(math.Float64bits(x) + from.Next()%(1<<31))
 		check(x, near)
 		check(-x, -near)
 		check(x, -near)

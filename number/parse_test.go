@@ -10,6 +10,7 @@ import (
 	"testing"
 
 	"trellis/api"
+	"trellis/sample"
 )
 
 // form is P5.7 in another notation.
@@ -179,7 +180,7 @@ func lower(digits string) string {
 func TestParseBetween(t *testing.T) {
 	longest := 0
 	for _, w := range []width{w32, w64} {
-		from := new(dice)
+		from := new(sample.Dice)
 		for i, amount := range append(fewer(w.edges()), w.some(200, from)...) {
 			digits, power := exactly(new(big.Int).Lsh(w.units(amount), 1), w)
 			if amount > 0 {
@@ -205,14 +206,14 @@ func TestParseBetween(t *testing.T) {
 
 // TestParseNearest: P5.8, of decimals of one to forty digits, with powers in and out of the range, by a search for the nearest float.
 func TestParseNearest(t *testing.T) {
-	from := new(dice)
+	from := new(sample.Dice)
 	for i := range 3000 {
-		digits := strings.TrimLeft(new(big.Int).SetUint64(from.next()).String()+strconv.FormatUint(from.next(), 10), "0")
-		digits = digits[:1+from.next()%uint64(len(digits))]
+		digits := strings.TrimLeft(new(big.Int).SetUint64(from.Next()).String()+strconv.FormatUint(from.Next(), 10), "0")
+		digits = digits[:1+from.Next()%uint64(len(digits))]
 		for _, w := range []width{w32, w64} {
-			power := int(from.next()%700) - 370
+			power := int(from.Next()%700) - 370
 			if w == w32 {
-				power = int(from.next()%100) - 60
+				power = int(from.Next()%100) - 60
 			}
 			power -= len(digits) - 1
 			want := w.nearest(decimally(digits, power))
@@ -313,7 +314,7 @@ func TestLong(t *testing.T) {
 
 // TestOnceRounded: P5.8: Parse32 rounds the decimal's number, not Parse's.
 func TestOnceRounded(t *testing.T) {
-	from, unlike := new(dice), 0
+	from, unlike := new(sample.Dice), 0
 	for _, amount := range append(w32.edges(), w32.some(300, from)...) {
 		digits, power := exactly(w32.between(amount), w32)
 		// So little more or less that a float of 64 bits does not have it.
@@ -361,7 +362,7 @@ func TestParseInOrder(t *testing.T) {
 		exact *big.Rat
 	}
 	var row []decimal
-	from := new(dice)
+	from := new(sample.Dice)
 	for _, amount := range append(w64.some(60, from), w64.infinity()-1, 0, 1, 1<<52) {
 		digits, power := exactly(w64.between(amount), w64)
 		for _, s := range []string{digits, lower(digits), digits[:min(17, len(digits))] + strings.Repeat("0", max(0, len(digits)-17))} {
@@ -389,16 +390,16 @@ func TestParseInOrder(t *testing.T) {
 
 // TestAnyBytes: P5.11, of rows of any bytes, of letters of decimals, and of very long texts.
 func TestAnyBytes(t *testing.T) {
-	from := new(dice)
+	from := new(sample.Dice)
 	letters := "0123456789--..eE+0000019"
 	for range 20000 {
-		b := make([]byte, from.next()%40)
+		b := make([]byte, from.Next()%40)
 		for i := range b {
-			b[i] = byte(from.next())
+			b[i] = byte(from.Next())
 		}
 		checkForm(t, string(b))
 		for i := range b {
-			b[i] = letters[from.next()%uint64(len(letters))]
+			b[i] = letters[from.Next()%uint64(len(letters))]
 		}
 		checkForm(t, string(b))
 	}

@@ -7,6 +7,7 @@ import (
 	"testing"
 
 	"trellis/api"
+	"trellis/sample"
 )
 
 // shown tells what Print, or Print32, tells of a float by its bits.
@@ -101,7 +102,7 @@ func TestPrintPoints(t *testing.T) {
 // TestPrint: P5.9 and P5.10, of the edges of both widths and of some others, by trying all decimals that are near: so none with fewer digits is read as the float, and none with as many is nearer.
 func TestPrint(t *testing.T) {
 	for _, w := range []width{w32, w64} {
-		from := new(dice)
+		from := new(sample.Dice)
 		for _, amount := range append(fewer(w.edges()), w.some(400, from)...) {
 			checkPrint(t, amount, w)
 		}
@@ -114,10 +115,10 @@ func TestPrint(t *testing.T) {
 
 // TestPrintDecimals: P5.9 and P5.10, of floats nearest to short decimals, each power of ten among them.
 func TestPrintDecimals(t *testing.T) {
-	from := new(dice)
+	from := new(sample.Dice)
 	for power := -330; power <= 308; power++ {
-		digits := strconv.FormatUint(from.next(), 10)
-		digits = digits[:1+from.next()%uint64(len(digits))]
+		digits := strconv.FormatUint(from.Next(), 10)
+		digits = digits[:1+from.Next()%uint64(len(digits))]
 		for _, s := range []string{"1e" + strconv.Itoa(power), digits + "e" + strconv.Itoa(power-len(digits)+1)} {
 			for _, w := range []width{w32, w64} {
 				if bits, e := read(s, w); e == api.OK && bits != 0 {
@@ -152,9 +153,9 @@ func TestPrintTies(t *testing.T) {
 
 // TestPrintMany: P5.10, of many floats: each is read back, and has as many digits as the library finds.
 func TestPrintMany(t *testing.T) {
-	from := new(dice)
+	from := new(sample.Dice)
 	for range 50000 {
-		bits := from.next()
+		bits := from.Next()
 		if x := math.Float64frombits(bits); Finite(x) {
 			s := Print(x)
 			if y, e := Parse(s); math.Float64bits(y) != bits || e != api.OK {
